@@ -456,7 +456,10 @@ func spoilLoads(loads []impl.Load) {
 	}
 }
 
-func TestLoadArgumentsUnchanged(t *testing.T) {
+// checkKeepsArguments calls use with the sample of three stones and with loads
+// that are valid and that are not, and tests that their memory stays as it was.
+func checkKeepsArguments(t *testing.T, use func(a impl.Arch, loads []impl.Load)) {
+	t.Helper()
 	a := archCases()[4].a
 	lists := someLoads(3)
 	for _, c := range invalidLoads(3) {
@@ -468,17 +471,7 @@ func TestLoadArgumentsUnchanged(t *testing.T) {
 		before := slices.Clone(full)
 		joints := append(slices.Clone(a.Joints), jt(20, 0, 22, 4), jt(30, 0, 32, 4))
 		jointsBefore := slices.Clone(joints)
-		arg, arch := full[:len(loads)], impl.Arch{Joints: joints[:len(a.Joints)]}
-		impl.LoadsOk(arch, arg)
-		impl.TotalOf(arch, arg)
-		for k := -1; k <= 4; k++ {
-			impl.WeightLeft(arch, arg, k)
-			impl.MomentLeft(arch, arg, k)
-		}
-		for _, n := range []int{-1, 0, 1, 2, 1000, 1001} {
-			scaled, _ := impl.ScaleLoads(arg, n)
-			spoilLoads(scaled)
-		}
+		use(impl.Arch{Joints: joints[:len(a.Joints)]}, full[:len(loads)])
 		if !slices.Equal(full, before) {
 			t.Errorf("the loads %v became %v", before, full)
 		}
@@ -486,6 +479,21 @@ func TestLoadArgumentsUnchanged(t *testing.T) {
 			t.Errorf("the joints %v became %v", jointsBefore, joints)
 		}
 	}
+}
+
+func TestLoadArgumentsUnchanged(t *testing.T) {
+	checkKeepsArguments(t, func(a impl.Arch, loads []impl.Load) {
+		impl.LoadsOk(a, loads)
+		impl.TotalOf(a, loads)
+		for k := -1; k <= 4; k++ {
+			impl.WeightLeft(a, loads, k)
+			impl.MomentLeft(a, loads, k)
+		}
+		for _, n := range []int{-1, 0, 1, 2, 1000, 1001} {
+			scaled, _ := impl.ScaleLoads(loads, n)
+			spoilLoads(scaled)
+		}
+	})
 }
 
 func TestLoadResultsShareNoMemory(t *testing.T) {
